@@ -743,28 +743,33 @@ func callsOn(t impl.Tour, names []int) map[string]func() ([]int, string) {
 	}
 }
 
-// TestToursStayAsTheyAre also looks at the spare memory behind the arguments, and writes into that of the results.
+// checkMemory calls a function twice and writes into the memory of its result in between. The memories are those of its arguments, spare memory included.
+func checkMemory(t *testing.T, label string, call func() ([]int, string), memories ...[]int) {
+	t.Helper()
+	was := slices.Concat(memories...)
+	result, text := call()
+	before := slices.Clone(result)
+	result = result[:cap(result)]
+	for i := range result {
+		result[i] = -77
+	}
+	if is := slices.Concat(memories...); !slices.Equal(is, was) {
+		t.Fatalf("%s changes or returns the memory of an argument: %v, before %v", label, is, was)
+	}
+	if again, sameText := call(); !slices.Equal(again, before) || sameText != text {
+		t.Fatalf("%s returns %v, %q and then %v, %q", label, before, text, again, sameText)
+	}
+}
+
 func TestToursStayAsTheyAre(t *testing.T) {
 	for _, k := range someKnownTours() {
 		n := k.tour.Size
 		for _, names := range someOrdersOf(n) {
 			winsMemory := append(slices.Clone(k.tour.Wins), 91, 92, 93)
 			namesMemory := append(slices.Clone(names), 94, 95, 96)
-			wantWins, wantNames := slices.Clone(winsMemory), slices.Clone(namesMemory)
 			tour := impl.Tour{Size: n, Wins: winsMemory[:n]}
 			for function, call := range callsOn(tour, namesMemory[:n]) {
-				result, text := call()
-				before := slices.Clone(result)
-				result = result[:cap(result)]
-				for i := range result {
-					result[i] = -77
-				}
-				if !slices.Equal(winsMemory, wantWins) || !slices.Equal(namesMemory, wantNames) {
-					t.Fatalf("%s of %s changes or returns the memory of an argument: %v, %v", function, k.text, winsMemory, namesMemory)
-				}
-				if again, sameText := call(); !slices.Equal(again, before) || sameText != text {
-					t.Fatalf("%s of %s returns %v, %q and then %v, %q", function, k.text, before, text, again, sameText)
-				}
+				checkMemory(t, function+" of "+k.text, call, winsMemory, namesMemory)
 			}
 		}
 	}
