@@ -546,11 +546,9 @@ func TestToursWithTrianglesAreNotTransitive(t *testing.T) {
 }
 
 func TestLargestTransitive(t *testing.T) {
-	for n := 1; n <= 8; n++ {
-		for _, k := range knownTours(n, 256) {
-			if got, want := impl.LargestTransitive(k.tour), largestTransitiveIn(k); got != want {
-				t.Errorf("LargestTransitive(%s) = %d, want %d", k.text, got, want)
-			}
+	for _, k := range allKnownTours() {
+		if got, want := impl.LargestTransitive(k.tour), largestTransitiveIn(k); got != want {
+			t.Errorf("LargestTransitive(%s) = %d, want %d", k.text, got, want)
 		}
 	}
 	for _, k := range builtTours() {
